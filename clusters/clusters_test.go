@@ -238,7 +238,7 @@ func TestLaws(t *testing.T) {
 	d := usual(t)
 	alphabet := codes("aab \r\n\u0301\u0302\U0001F1E6\U0001F1E71:_!-A\u05D0\u30A0\x00")
 	undone := 0
-	for range 1000 {
+	for range 150 {
 		text := make([]int, r.Intn(12))
 		for i := range text {
 			text[i] = alphabet[r.Intn(len(alphabet))]
@@ -292,7 +292,7 @@ func TestLaws(t *testing.T) {
 			}
 		}
 	}
-	if undone < 100 {
+	if undone < 20 {
 		t.Error(undone)
 	}
 }

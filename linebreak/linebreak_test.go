@@ -166,7 +166,7 @@ func TestLaws(t *testing.T) {
 	table := standard.Table(api.Lines)
 	invisible := map[string]bool{"Space": true, "Mandatory": true, "CR": true, "LF": true, "Newline": true, "ZeroSpace": true}
 	alphabet := codes("aa  \n\r\x0B\u0085\u200B-\u0301\u4E00)$")
-	for range 1000 {
+	for range 250 {
 		text := make([]int, r.Intn(12))
 		for i := range text {
 			text[i] = alphabet[r.Intn(len(alphabet))]
